@@ -36,7 +36,7 @@ func values() map[string]api.Value {
 		"10:0123456789":          Text("0123456789"),
 		"le":                     List(),
 		"de":                     dict(nil),
-		"li1e1:ald1:xleee":       List(Int(1), Text("a"), List(dict([]string{"x"}, List()))),
+		"li1e1:ald1:xleeee":      List(Int(1), Text("a"), List(dict([]string{"x"}, List()))),
 		"d1:ai-3e1:bl2:xyee":     dict([]string{"b", "a"}, List(Text("xy")), Int(-3)),
 		"d0:0:1:\x00i7e1:\xffdee": dict([]string{"\xff", "", "\x00"}, dict(nil), Text(""),
 			Int(7)),
