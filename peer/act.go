@@ -12,9 +12,12 @@ import (
 const (
 	roundEvery = 10
 	giveUp     = 30
-	stale      = 60
+	// stale is longer than anyone waits to be let again: what one that is suspected began nobody else may end.
+	stale = 600
 	// calm is longer than anything is on its way.
 	calm = 30
+	// turn is how long one keeps the place by turns.
+	turn = 30
 )
 
 // asker is a way of asking for blocks.
@@ -36,8 +39,9 @@ type carefully struct{}
 
 func (carefully) choices(p *Peer, c *conn, most int) []api.Choice {
 	var hidden []int
+	claimed := p.claimed(c)
 	for i := range p.store.Pieces() {
-		if has, _ := c.Has(false, i); has && !c.refused[i] && !p.blame.May(c.who, i) {
+		if has, _ := c.Has(false, i); has && !c.refused[i] && (claimed[i] || !p.blame.May(c.who, i)) {
 			hidden = append(hidden, i)
 			p.picker.Lost(c.who, i)
 		}
@@ -47,6 +51,21 @@ func (carefully) choices(p *Peer, c *conn, most int) []api.Choice {
 		p.picker.Have(c.who, i)
 	}
 	return l
+}
+
+// claimed are the pieces of which blocks are asked of others, where one of both is suspected: they must not be mixed.
+func (p *Peer) claimed(c *conn) map[int]bool {
+	out := map[int]bool{}
+	suspect := p.blame.Parole(c.who)
+	for _, x := range p.live() {
+		if x == c || !suspect && !p.blame.Parole(x.who) {
+			continue
+		}
+		for y := range x.asked {
+			out[y.Piece] = true
+		}
+	}
+	return out
 }
 
 // asking is the way of asking now.
@@ -195,24 +214,26 @@ func (p *Peer) waits(c *conn) bool {
 	return c.Choked(true) && c.Wants(false) && (c.fast || c.choked == 0 || p.now-c.choked+1 >= calm)
 }
 
-// rated are the others as they are seen when it is chosen whom to let.
+// rated are the others as they are seen when it is chosen whom to let. One that was let a short while ago counts as never let: it keeps the place by turns until what it asks for could come.
 func (p *Peer) rated(l []*conn) []api.Rated {
 	var out []api.Rated
 	for _, c := range l {
-		out = append(out, api.Rated{Peer: c.who, Wants: p.waits(c) || !c.Choked(true) && c.Wants(false), Gave: c.gave, Got: c.got, Snubbed: c.snubbed, Let: c.let})
+		let := c.let + 1
+		if !c.Choked(true) && p.now-c.let+1 < turn {
+			let = 0
+		}
+		out = append(out, api.Rated{Peer: c.who, Wants: p.waits(c) || !c.Choked(true) && c.Wants(false), Gave: c.gave, Got: c.got, Snubbed: c.snubbed, Let: let})
 	}
 	return out
 }
 
 // setLet lets another one, or chokes it.
 func (p *Peer) setLet(c *conn, let bool) {
-	if let {
-		c.let = p.now + 1
-	}
 	if let != c.Choked(true) {
 		return
 	}
 	if let {
+		c.let = p.now + 1
 		p.send(c, api.Msg{Kind: api.MUnchoke})
 		return
 	}
@@ -226,10 +247,10 @@ func (p *Peer) round() {
 	if len(l) > 200 {
 		l = l[:200]
 	}
-	turn, _ := hash.Draw(p.seed, p.rounds, ghost)
+	behind, _ := hash.Draw(p.seed, p.rounds, ghost)
 	p.rounds++
 	p.lastRound = p.now
-	chosen, e := choke.Choose(p.rated(l), p.client.Slots, p.Done(), turn)
+	chosen, e := choke.Choose(p.rated(l), p.client.Slots, p.Done(), behind)
 	if e != api.OK {
 		return
 	}
