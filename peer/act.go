@@ -18,6 +18,8 @@ const (
 	calm = 30
 	// turn is how long one keeps the place by turns.
 	turn = 30
+	// fading is how many eighths of what was given count in the next round.
+	fading = 6
 )
 
 // asker is a way of asking for blocks.
@@ -260,7 +262,8 @@ func (p *Peer) round() {
 	}
 	for _, c := range l {
 		p.setLet(c, let[c.who])
-		c.gave, c.got = 0, 0
+		// Blocks come in bursts on long links: what came a while ago counts still, but less.
+		c.gave, c.got = c.gave*fading/8, c.got*fading/8
 	}
 }
 
