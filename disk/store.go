@@ -25,9 +25,12 @@ type partial struct {
 // Store keeps content on a disk.
 type Store struct {
 	*drive
-	disk    *Disk
-	meta    api.Meta
+	disk *Disk
+	meta api.Meta
+	// old is the old half, where there is one.
+	old     api.Meta
 	new     bool
+	sizes   []int
 	cache   int
 	folder  string
 	folders []string
@@ -76,7 +79,13 @@ func Open(d *Disk, m api.Meta, folder string, whole bool, cache int) (*Store, ap
 		refuse(cache < 1 || cache > mostCache, api.ErrRange)
 		s := &Store{drive: &d.drive, disk: d, meta: clone(m), new: m.Info.Version != api.VOld, cache: cache, folder: folder, memory: map[int]*partial{}}
 		s.folders = slices.Repeat([]string{folder}, len(m.Info.Files))
+		if meta.Old(m.Info) {
+			s.old = must(meta.Half(m, false))
+		}
 		s.had = make([]bool, must(meta.Count(m.Info, s.new)))
+		for i := range s.had {
+			s.sizes = append(s.sizes, must(files.Size(m.Info.Files, m.Info.Piece, s.new, i)))
+		}
 		s.lay(whole)
 		return s
 	})
@@ -111,7 +120,7 @@ func (s *Store) ask() { refuse(s == nil || s.drive == nil, api.ErrInvalid) }
 
 func (s *Store) askPiece(i int) { refuse(i < 0 || i >= len(s.had), api.ErrRange) }
 
-func (s *Store) size(i int) int { return must(meta.Size(s.meta.Info, s.new, i)) }
+func (s *Store) size(i int) int { return s.sizes[i] }
 
 // askBlock asks a block of a piece.
 func (s *Store) askBlock(c api.Choice) {
@@ -132,17 +141,47 @@ func (s *Store) spans(i int) iter.Seq[api.Span] {
 	}
 }
 
+// single is a metainfo of one piece alone, which proves just what the new half proves; false if there is none. It saves asking the whole metainfo for each piece.
+func (s *Store) single(i int) (api.Meta, bool) {
+	info := s.meta.Info
+	span := must(files.Spans(info.Files, info.Piece, true, i))[0]
+	nth := 0
+	for _, f := range info.Files[:span.File] {
+		if !f.Pad {
+			nth++
+		}
+	}
+	proof := info.Roots[nth]
+	if info.Files[span.File].Length > info.Piece {
+		if span.Count < info.Piece {
+			// Its node stands over pads, too: no file of its length has that root.
+			return api.Meta{}, false
+		}
+		proof = s.meta.Layers[nth][span.From/info.Piece]
+	}
+	one := api.Info{Name: "piece", Version: api.VNew, Piece: info.Piece, Files: []api.File{{Path: []string{"piece"}, Length: span.Count}}, Roots: []string{proof}}
+	return api.Meta{Info: one, Layers: [][]string{nil}}, true
+}
+
+// right reports whether data are those of a piece by one half.
+func right(m api.Meta, new bool, i int, data string) bool {
+	ok, e := meta.Check(m, new, i, data)
+	return ok && e == api.OK
+}
+
 // proved reports whether data are those of a piece, by all halves that there are.
 func (s *Store) proved(i int, data string) bool {
-	if ok, e := meta.Check(s.meta, s.new, i, data); !ok || e != api.OK {
-		return false
+	if s.new {
+		one, alone := s.single(i)
+		if alone && !right(one, true, 0, data) || !alone && !right(s.meta, true, i, data) {
+			return false
+		}
 	}
-	if s.meta.Info.Version != api.VBoth {
+	if s.meta.Info.Version == api.VNew {
 		return true
 	}
-	n := must(meta.Size(s.meta.Info, false, i))
-	ok, e := meta.Check(s.meta, false, i, data+strings.Repeat("\x00", max(0, n-len(data))))
-	return ok && e == api.OK
+	n := must(meta.Size(s.old.Info, false, i))
+	return right(s.old, false, i, data+strings.Repeat("\x00", max(0, n-len(data))))
 }
 
 // save writes a piece to its files, and flushes them.
