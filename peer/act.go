@@ -179,31 +179,36 @@ func (p *Peer) request(c *conn) {
 	for _, y := range p.asking().choices(p, c, most) {
 		x := p.real(y)
 		if p.send(c, api.Msg{Kind: api.MRequest, Index: x.Piece, Begin: x.Begin, Length: x.Length}) {
-			c.asked[x] = p.now
+			c.asked[x] = unsent
 		} else {
 			p.picker.Reject(c.who, y)
 		}
 	}
 }
 
+// isLate reports whether a block was asked long ago.
+func (p *Peer) isLate(c *conn, x api.Choice) bool {
+	at, asked := c.asked[x]
+	return asked && at != unsent && p.now-at >= giveUp
+}
+
 // giveUps gives up what was asked long ago.
 func (p *Peer) giveUps(c *conn) {
 	late := false
-	for _, at := range c.asked {
-		late = late || p.now-at >= giveUp
+	for x := range c.asked {
+		late = late || p.isLate(c, x)
 	}
 	if !late {
 		return
 	}
 	for _, y := range p.picker.Asked(c.who) {
-		x := p.real(y)
-		if at, ok := c.asked[x]; ok && p.now-at >= giveUp {
+		if x := p.real(y); p.isLate(c, x) {
 			p.picker.Reject(c.who, y)
 			p.unask(c, x)
 		}
 	}
-	for x, at := range c.asked {
-		if p.now-at >= giveUp {
+	for x := range c.asked {
+		if p.isLate(c, x) {
 			delete(c.asked, x)
 		}
 	}

@@ -13,6 +13,7 @@ import (
 const (
 	mostWaiting = 1000
 	chunk       = 4096
+	unsent      = -1
 )
 
 // conn is a connection: its rules, when they are known, and its reader.
@@ -24,8 +25,9 @@ type conn struct {
 	new  bool
 	fast bool
 	// who is the number of the other one, 0 before its handshake.
-	who   int
-	out   []byte
+	who int
+	out []byte
+	// asked are the blocks that were asked, and when their requests were taken to be sent.
 	asked map[api.Choice]int
 	// refused are the pieces of which blocks were rejected though we are let.
 	refused map[int]bool
@@ -238,8 +240,14 @@ func (p *Peer) Out(n int) string {
 	if p == nil || p.conns[n] == nil {
 		return ""
 	}
-	s := string(p.conns[n].out)
-	p.conns[n].out = nil
+	c := p.conns[n]
+	s := string(c.out)
+	c.out = nil
+	for x, at := range c.asked {
+		if at == unsent {
+			c.asked[x] = p.now
+		}
+	}
 	return s
 }
 

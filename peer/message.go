@@ -72,6 +72,9 @@ func (p *Peer) onPiece(c *conn, m api.Msg) {
 		return
 	}
 	cancel, whole, e := p.picker.Here(c.who, p.picked(x))
+	if e == api.ErrRefused {
+		cancel, whole, e = p.lateHere(x)
+	}
 	if e != api.OK {
 		return
 	}
@@ -82,6 +85,22 @@ func (p *Peer) onPiece(c *conn, m api.Msg) {
 	p.late[x.Piece] = p.now
 	p.decide(x, m.Data, whole)
 	breakOff(!c.open)
+}
+
+// lateHere lets the picker take a block that was given up, and came all the same, if nobody else is asked for it.
+func (p *Peer) lateHere(x api.Choice) (cancel []api.Asked, whole bool, e api.Errno) {
+	e = api.ErrRefused
+	p.picker.Have(ghost, x.Piece)
+	l, _ := p.picker.Next(ghost, p.pickSize(x.Piece))
+	for _, y := range l {
+		if y == p.picked(x) {
+			cancel, whole, e = p.picker.Here(ghost, y)
+		} else {
+			p.picker.Reject(ghost, y)
+		}
+	}
+	p.picker.Lost(ghost, x.Piece)
+	return cancel, whole, e
 }
 
 // decide gives a block to the store; whole tells that the picker has all blocks of its piece.

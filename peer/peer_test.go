@@ -135,13 +135,16 @@ func (n *net) connect(a, b int, new bool) {
 }
 
 // second lets a second go by.
-func (n *net) second() {
+func (n *net) second() { n.pass(1) }
+
+// pass lets so many seconds go by at once.
+func (n *net) pass(seconds int) {
 	for _, p := range n.peers {
 		if e := p.Tick(n.now); e != api.OK {
 			n.t.Error(e)
 		}
 	}
-	n.now++
+	n.now += seconds
 	for k := 1; k <= len(n.pairs); k++ {
 		for from := range 2 {
 			a, b := n.peers[n.pairs[k][from]], n.peers[n.pairs[k][1-from]]
@@ -418,6 +421,29 @@ func TestP354Two(t *testing.T) {
 	}
 }
 
+func TestSlowTime(t *testing.T) {
+	// What was given up and comes all the same is taken: time goes on by more than 30 seconds between asking and getting.
+	for _, fast := range []bool{true, false} {
+		m := metaOf(t, api.VNew)
+		a, b := client(0, api.VNew), client(1, api.VNew)
+		a.Fast, b.Fast = fast, fast
+		p, q := fill(t, made(t, m, a)), made(t, m, b)
+		p.Connect(1, true, true)
+		q.Connect(1, false, true)
+		for k := range 60 {
+			p.Tick(k * 50)
+			q.Tick(k * 50)
+			x, y := p.Out(1), q.Out(1)
+			q.Feed(1, x)
+			p.Feed(1, y)
+		}
+		whole(t, q)
+		if !p.Open(1) || !q.Open(1) {
+			t.Error("open", fast)
+		}
+	}
+}
+
 func TestHybrid(t *testing.T) {
 	m := metaOf(t, api.VBoth)
 	// An old one has all, a new one wants it: the one of both between them hands it on.
@@ -503,8 +529,11 @@ func TestRequests(t *testing.T) {
 	if len(q.picker.Asked(1)) != 4 {
 		t.Error("Queue", q.picker.Asked(1))
 	}
-	q.Tick(29)
 	q.Out(1)
+	q.Tick(29)
+	if q.Out(1) != "" {
+		t.Error("too early")
+	}
 	q.Tick(30)
 	if out := q.Out(1); strings.Count(out, string(must(wire.Encode(api.Msg{Kind: api.MCancel, Length: 16}))[:5])) != 4 || len(q.picker.Asked(1)) != 0 {
 		t.Error("given up", len(q.picker.Asked(1)))
