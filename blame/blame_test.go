@@ -152,6 +152,47 @@ func TestJudged(t *testing.T) {
 	}
 }
 
+// The score of one that sent all blocks of a try that failed stays when the piece is good; by tries with others it goes down.
+func TestP341ScoreOfOneAlone(t *testing.T) {
+	b := New()
+	send(t, b, 1, 0, 0, "right")
+	send(t, b, 2, 0, 1, "wrong")
+	fail(t, b, 0)
+	send(t, b, 1, 0, 0, "right")
+	send(t, b, 1, 0, 1, "right")
+	fail(t, b, 0, 1)
+	send(t, b, 3, 0, 1, "wrong")
+	fail(t, b, 0, 3)
+	if b.Score(1) != 2 || b.Score(2) != 1 || b.Score(3) != 1 {
+		t.Error("failed", b.Score(1), b.Score(2), b.Score(3))
+	}
+	send(t, b, 4, 0, 0, "right")
+	send(t, b, 4, 0, 1, "right")
+	good(t, b, 0, 2)
+	if b.Score(1) != 1 || b.Score(2) != 1 || b.Score(3) != 1 || b.Score(4) != 0 {
+		t.Error("good", b.Score(1), b.Score(2), b.Score(3), b.Score(4))
+	}
+}
+
+// A block that a tree proved wrong is taken out of its try: what its sender sent besides is judged by itself.
+func TestP342ScoreOfOneProvedWrong(t *testing.T) {
+	b := New()
+	send(t, b, 1, 0, 0, "wrong")
+	send(t, b, 1, 0, 1, "right")
+	send(t, b, 2, 0, 2, "wrong")
+	if banned, e := b.Proved(1, at(0, 0), false); !banned || e != api.OK {
+		t.Error(banned, e)
+	}
+	fail(t, b, 0)
+	for k := range 3 {
+		send(t, b, 3, 0, k, "right")
+	}
+	good(t, b, 0, 2)
+	if b.Score(1) != 0 || b.Score(2) != 1 {
+		t.Error(b.Score(1), b.Score(2))
+	}
+}
+
 // play lets peers send blocks of pieces, some of which spoil; it calls check behind each step.
 func play(seed string, spoils func(peer int) bool, check func(b *Blame, wrong map[int]bool)) *Blame {
 	b := New()
