@@ -248,14 +248,14 @@ func (c *Client) Want(piece int, to bool) api.Errno {
 	return e
 }
 
-// Wanted returns the pieces that are wanted.
+// Wanted returns the pieces that are wanted, with those under way: one that was taken out then may come all the same.
 func (c *Client) Wanted() string {
 	if c == nil {
 		return ""
 	}
 	b := make([]byte, (len(c.wanted)+7)/8)
 	for i, w := range c.wanted {
-		if w {
+		if w || c.busy[i] {
 			b[i/8] |= 128 >> (i % 8)
 		}
 	}

@@ -220,6 +220,38 @@ func TestP303Once(t *testing.T) {
 	next(2005, 0, 12, 4)
 }
 
+// Wanted tells what is under way, too, until it ends; Want back in keeps it behind a failure.
+func TestP303WantedUnderWay(t *testing.T) {
+	c := made(t, 2, 4, "\xe0", 2)
+	wanted := func(want string) {
+		t.Helper()
+		if s := c.Wanted(); s != want {
+			t.Errorf("%x, not %x", s, want)
+		}
+	}
+	c.Next(0)
+	wanted("\xe0")
+	c.Want(0, false)
+	c.Want(1, false)
+	c.Want(2, false)
+	wanted("\xc0")
+	if _, _, e := c.Next(0); e != api.ErrNone {
+		t.Error("what is under way stays so, and is asked of nobody else", e)
+	}
+	c.Want(1, true)
+	c.Failed(0, 0, false)
+	wanted("\x40")
+	if _, r, e := c.Next(0); r != (api.Run{From: 1, Count: 1}) || e != api.OK {
+		t.Error(r, e)
+	}
+	c.Want(1, false)
+	wanted("\x40")
+	if r, e := c.Took(0, 1); r != (api.Run{From: 1, Count: 1}) || e != api.OK {
+		t.Error("taken out while under way, told by Took all the same", r, e)
+	}
+	wanted("\x00")
+}
+
 func TestP304All(t *testing.T) {
 	for seed := range 8 {
 		c := made(t, 4, 50, full(50), 1+seed*2)
