@@ -277,7 +277,7 @@ func (c *Client) Under() []api.Run {
 	return out
 }
 
-// When returns the next time at which Next would return something.
+// When returns the next time at which Next would return something; a time behind the last one is none.
 func (c *Client) When(now int) (int, api.Errno) {
 	return attempt(func() int {
 		c.ask()
@@ -290,7 +290,7 @@ func (c *Client) When(now int) (int, api.Errno) {
 				least = s.wait
 			}
 		}
-		refuse(least < 0, api.ErrNone)
+		refuse(!within(least, 0, api.MaxTime), api.ErrNone)
 		c.now = now
 		return max(now, least)
 	})

@@ -369,6 +369,36 @@ func TestP305Back(t *testing.T) {
 	}
 }
 
+// At the end of time a seed that waits beyond it is asked by nobody any more.
+func TestP305EndOfTime(t *testing.T) {
+	for _, late := range []int{0, 1} {
+		now := api.MaxTime - 2000 + late
+		c := made(t, 2, 3, "\xe0", 1)
+		c.Next(0)
+		c.Next(0)
+		if c.Failed(now, 0, false) != api.OK {
+			t.Error("Failed")
+		}
+		if w, _ := c.Wait(0); w != now+2000 {
+			t.Error(w)
+		}
+		at, e := c.When(now)
+		if late == 0 && (at != api.MaxTime || e != api.OK) || late == 1 && (at != 0 || e != api.ErrNone) {
+			t.Error(late, at, e)
+		}
+		if r, e := c.Took(now, 1); r != (api.Run{From: 1, Count: 1}) || e != api.OK {
+			t.Error(r, e)
+		}
+		if at, e := c.When(now); at != now || e != api.OK {
+			t.Error("the other one may be asked at once", at, e)
+		}
+		c.Next(now)
+		if _, _, e := c.Next(api.MaxTime); (e == api.OK) != (late == 0) {
+			t.Error(late, e)
+		}
+	}
+}
+
 func TestP306Header(t *testing.T) {
 	for _, c := range [][2]int{{5, 3}, {0, 1}, {65536, 65536}, {0, 65536}} {
 		s, e := Header(api.Fetch{From: c[0], Count: c[1]})
