@@ -273,6 +273,48 @@ func TestP113When(t *testing.T) {
 	}
 }
 
+// At the end of time: what may be asked only behind it is never asked.
+func TestP113EndOfTime(t *testing.T) {
+	for k, c := range []struct {
+		now, interval int // an interval of 0: it fails
+		at            int
+		e             api.Errno
+	}{
+		{api.MaxTime, 1, 0, api.ErrNone}, {api.MaxTime - 5, 5, api.MaxTime, api.OK}, {api.MaxTime - 5, 6, 0, api.ErrNone}, {0, 100000000, 100000000, api.OK},
+		{api.MaxTime, 0, 0, api.ErrNone}, {api.MaxTime - 10000, 0, api.MaxTime, api.OK}, {api.MaxTime - 9999, 0, 0, api.ErrNone},
+	} {
+		x, _ := New("", [][]string{{"a"}}, false)
+		x.Next(c.now)
+		if c.interval == 0 {
+			x.Fail(c.now)
+		} else {
+			x.Answer(c.now, c.interval)
+		}
+		if at, e := x.When(c.now); at != c.at || e != c.e {
+			t.Error(k, at, e)
+		}
+		if _, e := x.Next(api.MaxTime); e != c.e {
+			t.Error(k, "Next at the last time", e)
+		}
+	}
+	// Of several the least time counts, and what is due at once is told still.
+	x := made(false)
+	x.Next(api.MaxTime)
+	x.Fail(api.MaxTime)
+	if at, e := x.When(api.MaxTime); at != api.MaxTime || e != api.OK {
+		t.Error(at, e)
+	}
+	x.Next(api.MaxTime)
+	x.Answer(api.MaxTime, 1000)
+	if at, e := x.When(api.MaxTime); at != 0 || e != api.ErrNone {
+		t.Error(at, e)
+	}
+	x.Done()
+	if at, e := x.When(api.MaxTime); at != api.MaxTime || e != api.OK {
+		t.Error("done is due at once", at, e)
+	}
+}
+
 func TestP114Order(t *testing.T) {
 	x := made(false)
 	o, _ := x.Order(0)
