@@ -151,20 +151,22 @@ func (c *Crier) Tell(now int) (string, api.Errno) {
 	})
 }
 
-// When returns the next time at which Tell would return a message.
+// When returns the next time at which Tell would return a message; a time behind the last one is none.
 func (c *Crier) When(now int) (int, api.Errno) {
 	return attempt(func() int {
 		c.ask()
 		c.askTime(now)
 		refuse(len(c.told) == 0, api.ErrNone)
-		c.tell(now)
 		least, first := 0, true
 		for name := range c.told {
 			if d := c.due(name); first || d < least {
 				least, first = d, false
 			}
 		}
-		return max(least, c.free(now))
+		at := max(least, c.free(now))
+		refuse(at > api.MaxTime, api.ErrNone)
+		c.tell(now)
+		return at
 	})
 }
 

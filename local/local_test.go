@@ -207,6 +207,41 @@ func TestP233When(t *testing.T) {
 	}
 }
 
+// At the end of time: what may be told only behind it is never told, and a When that finds nothing changes nothing.
+func TestP233EndOfTime(t *testing.T) {
+	for k, c := range []struct {
+		every, now, more int // more names are put in behind the first message
+		at               int
+		e                api.Errno
+	}{
+		{1000, api.MaxTime, 0, 0, api.ErrNone}, {1000, api.MaxTime - 1000, 0, api.MaxTime, api.OK}, {1000, api.MaxTime - 999, 0, 0, api.ErrNone}, {5000, api.MaxTime - 1000, 0, 0, api.ErrNone},
+		{5000, api.MaxTime - 1000, 1, api.MaxTime, api.OK}, {5000, api.MaxTime - 999, 1, 0, api.ErrNone},
+	} {
+		x := made(t, "end", c.every, 1)
+		if _, e := x.Tell(c.now); e != api.OK {
+			t.Error(k, e)
+		}
+		for i := range c.more {
+			x.Add(name(100+i), false)
+		}
+		if at, e := x.When(c.now); at != c.at || e != c.e {
+			t.Error(k, at, e)
+		}
+		if _, e := x.Tell(api.MaxTime); e != c.e {
+			t.Error(k, "Tell at the last time", e)
+		}
+	}
+	x := made(t, "end", 1000000, 1)
+	now := api.MaxTime - 100000
+	x.Tell(now)
+	if _, e := x.When(api.MaxTime); e != api.ErrNone {
+		t.Error(e)
+	}
+	if n, e := x.Heard(now, at(1)); n != 0 || e != api.OK {
+		t.Error("the time is as it was", n, e)
+	}
+}
+
 func TestP234Turns(t *testing.T) {
 	for _, n := range []int{1, 19, 20, 21, 75, 200} {
 		c := made(t, "turns", 3000, n)
