@@ -2,6 +2,7 @@ package meta
 
 import (
 	"slices"
+	"strconv"
 	"strings"
 	"testing"
 
@@ -226,7 +227,7 @@ func TestP62Wrong(t *testing.T) {
 		{nil, "info meta_version", api.ErrKind}, {nil, "info pieces", api.ErrKind}, {nil, "info files", api.ErrKind}, {nil, "info file_tree", api.ErrKind},
 		{v(benc.Text("q")), "info files 2 attr", api.ErrKind}, {v(benc.Text("12345")), "info pieces", api.ErrKind}, {v(benc.Text("")), "info pieces", api.ErrData},
 		{v(benc.Int(17)), "info piece_length", api.ErrData}, {v(benc.Int(-1)), "info files 0 length", api.ErrData}, {v(benc.List()), "info files 0 path", api.ErrData},
-		{v(benc.Int(1)), "info file_tree 0 1", api.ErrKind}, {nil, "info file_tree 1 2", api.ErrKind}, {v(benc.Text("x")), "info file_tree 1 2", api.ErrKind},
+		{v(benc.Int(1)), "info file_tree 0 1", api.ErrKind}, {nil, "info file_tree 1 2", api.ErrKind}, {v(benc.Text("x")), "info file_tree 1 2", api.ErrData}, {v(benc.Int(1)), "info file_tree 1 2", api.ErrKind}, {v(benc.Int(-1)), "info file_tree 1 1", api.ErrData},
 		{v(benc.List()), "announce-list", api.ErrKind}, {v(benc.List(benc.List())), "announce-list", api.ErrData}, {v(benc.List(benc.Text("t"))), "announce-list", api.ErrKind},
 		{v(benc.List()), "url-list", api.ErrKind}, {v(benc.Text("")), "comment", api.ErrKind}, {v(benc.Text(strings.Repeat("x", 501))), "comment", api.ErrData},
 		{v(benc.List(benc.Text(""))), "url-list", api.ErrData}, {nil, "piece_layers", api.ErrProof}, {v(benc.List()), "piece_layers", api.ErrKind},
@@ -274,6 +275,45 @@ func TestP62Wrong(t *testing.T) {
 	bad.Trackers = make([][]string, 11)
 	if ValidMeta(bad) {
 		t.Error("trackers")
+	}
+}
+
+// A root is read whatever its length is: validity asks it, behind all that has no such form.
+func TestP62RootOfAnotherLength(t *testing.T) {
+	l := []api.File{file(3, "a"), file(40, "b")}
+	for _, version := range []int{api.VNew, api.VBoth} {
+		m, _ := Make("n", version, 16, false, l, dataOf(l))
+		s, _ := Encode(m)
+		for k, root := range m.Info.Roots {
+			for _, n := range []int{0, 1, 20, 31, 33, 64, 1000} {
+				to := benc.Text(strings.Repeat("r", n))
+				wrong := edit(s, &to, "info", "file tree", strconv.Itoa(k), "2")
+				raw, e := Raw(wrong)
+				if e != api.OK {
+					t.Error("Raw", n, e)
+				}
+				if i, e := Info(raw); e != api.ErrData || i.Name != "" || len(i.Files) > 0 {
+					t.Error("Info", version, k, n, e)
+				}
+				if x, e := Decode(wrong); e != api.ErrData || !Same(x, api.Meta{}) {
+					t.Error("Decode", version, k, n, e)
+				}
+				two := benc.Int(2)
+				if _, e := Decode(edit(wrong, &two, "info", "private")); e != api.ErrKind {
+					t.Error("what has no such form comes first", e)
+				}
+				bad := m.Info
+				bad.Roots = slices.Clone(bad.Roots)
+				bad.Roots[k] = strings.Repeat("r", n)
+				if part, at, e := Wrong(bad); part != "roots" || at != k || e != api.ErrData {
+					t.Error("Wrong", part, at, e)
+				}
+			}
+			to := benc.Text(root)
+			if _, e := Decode(edit(s, &to, "info", "file tree", strconv.Itoa(k), "2")); e != api.OK {
+				t.Error("as it was", e)
+			}
+		}
 	}
 }
 

@@ -82,7 +82,7 @@ func (r reader) file() api.File {
 	return f
 }
 
-// tree reads a file tree: files and their roots.
+// tree reads a file tree: files and their roots, of any length (validity asks it).
 func (r reader) tree() (l []api.File, roots []string) {
 	for _, x := range r.list() {
 		kids := x.list()
@@ -92,7 +92,6 @@ func (r reader) tree() (l []api.File, roots []string) {
 		root := ""
 		if len(kids) == 3 {
 			root = kids[2].text()
-			need(len(root) == api.NewSize)
 		}
 		l = append(l, f)
 		roots = append(roots, root)
