@@ -168,6 +168,50 @@ func TestP61Errors(t *testing.T) {
 	}
 }
 
+// Pads align what follows: their bytes are no content.
+func TestP61PadsAreNoContent(t *testing.T) {
+	pad := func(n int) api.File {
+		return api.File{Path: []string{".pad", strconv.Itoa(n)}, Length: n, Pad: true}
+	}
+	empty := []api.File{file(0, "a"), pad(11), file(0, "b")}
+	i := api.Info{Name: "n", Version: api.VOld, Piece: 16, Files: empty, Pieces: []string{hash.Old(strings.Repeat("\x00", 11))}}
+	for k, c := range []struct {
+		version int
+		l       []api.File
+		e       api.Errno
+	}{
+		{api.VOld, empty, api.ErrSize}, {api.VOld, []api.File{file(0, "a")}, api.ErrSize}, {api.VNew, []api.File{file(0, "a"), file(0, "b")}, api.ErrSize},
+		{api.VNew, empty, api.ErrKind}, {api.VBoth, empty, api.ErrState}, {api.VBoth, []api.File{file(0, "a"), file(0, "b")}, api.ErrSize},
+	} {
+		x := i
+		x.Version, x.Files = c.version, c.l
+		if part, at, e := Wrong(x); part != "files" || (at != 0) != (c.e == api.ErrKind) || e != c.e || Valid(x) {
+			t.Error(k, part, at, e)
+		}
+	}
+	for _, data := range [][]string{{"", "", ""}, {"", strings.Repeat("\x00", 11), ""}} {
+		if m, e := Make("n", api.VOld, 16, false, empty, data); e != api.ErrInvalid || !Same(m, api.Meta{}) {
+			t.Error("Make", e)
+		}
+	}
+	if _, e := Make("n", api.VBoth, 16, false, empty, []string{"", ""}); e != api.ErrInvalid {
+		t.Error("Make", e)
+	}
+	form := "d5:filesld6:lengthi0e4:pathl1:aeed4:attr1:p6:lengthi11e4:pathl4:.pad2:11eed6:lengthi0e4:pathl1:beee4:name1:n12:piece lengthi16e6:pieces20:" + i.Pieces[0] + "e"
+	if _, e := Info(form); e != api.ErrData {
+		t.Error("Info", e)
+	}
+	if _, e := Decode("d4:info" + form + "e"); e != api.ErrData {
+		t.Error("Decode", e)
+	}
+	// One byte of content is enough, with pads in front of it and behind.
+	l := []api.File{file(0, "a"), pad(11), file(1, "c"), pad(4), file(0, "b")}
+	m, e := Make("n", api.VOld, 16, false, l, []string{"", "", "c", "", ""})
+	if e != api.OK || !ValidMeta(m) {
+		t.Error("Make", e)
+	}
+}
+
 func TestP62Back(t *testing.T) {
 	for k, m := range metas() {
 		s, e := Encode(m)
