@@ -151,7 +151,7 @@ func (c *Crier) Tell(now int) (string, api.Errno) {
 	})
 }
 
-// When returns the next time at which Tell would return a message; a time behind the last one is none.
+// When returns the next time at which Tell would return a message; a time beyond the bounds is none.
 func (c *Crier) When(now int) (int, api.Errno) {
 	return attempt(func() int {
 		c.ask()

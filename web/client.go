@@ -277,7 +277,7 @@ func (c *Client) Under() []api.Run {
 	return out
 }
 
-// When returns the next time at which Next would return something; a time behind the last one is none.
+// When returns the next time at which Next would return something; a time beyond the bounds is none.
 func (c *Client) When(now int) (int, api.Errno) {
 	return attempt(func() int {
 		c.ask()
